@@ -156,7 +156,7 @@ func readSlots(s string) (slots int, ok bool) {
 	return l[0], true
 }
 
-// readClients takes what a machine could remember alone: clients that rise and their numbers, all of which a command could have.
+// readClients takes clients that rise and their numbers, above 0 and as great as octet has them: no other bound is named for these.
 func readClients(s string) (done map[int]int, ok bool) {
 	l, ok := numsOf(s)
 	if !ok || len(l) > maxClients*clientNums {
@@ -165,7 +165,7 @@ func readClients(s string) (done map[int]int, ok bool) {
 	done = map[int]int{}
 	last := 0
 	for pair := range slices.Chunk(l, clientNums) {
-		if len(pair) < clientNums || pair[0] <= last || pair[1] < 1 || slices.Max(pair) > api.MaxTime {
+		if len(pair) < clientNums || pair[0] <= last || pair[1] < 1 {
 			return nil, false
 		}
 		last = pair[0]

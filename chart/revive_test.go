@@ -156,7 +156,41 @@ func TestReviveRefusesTexts(t *testing.T) {
 	}
 }
 
-// P15.6: what a machine could not remember.
+// P15.6: clients and numbers are octet's, up to 2^62; a bound of 2^40 is named for the slots alone.
+func TestReviveGreatClients(t *testing.T) {
+	c := charted(1, 0, 1, span)
+	for _, l := range [][]int{
+		{maxTime, 1}, {maxTime + 1, 1}, {maxNum - 1, 1}, {maxNum, 1},
+		{1, maxTime}, {1, maxTime + 1}, {1, maxNum - 1}, {1, maxNum},
+		{maxTime + 1, maxTime + 1}, {maxNum, maxNum}, {1, maxNum, 2, 1, maxTime, 7, maxTime + 1, maxNum, maxNum, 3},
+	} {
+		m := revived(t, []string{"\x00", chartText(c), nums(l...)})
+		wantChart(t, fmt.Sprint(l), m.Chart(), c)
+		wantTexts(t, fmt.Sprint(l), textsOf(t, m), "\x00", chartText(c), nums(l...))
+		wantClients(t, revived(t, textsOf(t, m)), l...)
+	}
+}
+
+// P15.5, P15.6: what is remembered so counts as what a machine did.
+func TestReviveGreatClientsGoOn(t *testing.T) {
+	c := charted(1, 0, 1, span)
+	m := revived(t, []string{"\x00", chartText(c), nums(7, maxNum, maxTime, maxTime+1, maxTime+1, 1)})
+	step(t, m, about(7, maxTime, from(0, 5), 2), telling(c), false)
+	step(t, m, about(maxTime, maxTime, from(0, 5), 2), telling(c), false)
+	c = charted(2, 0, 2, 5, 1, span)
+	step(t, m, about(8, 1, from(0, 5), 2), telling(c), true)
+	wantClients(t, m, 7, maxNum, 8, 1, maxTime, maxTime+1, maxTime+1, 1)
+
+	var full []int
+	for i := range maxClients {
+		full = append(full, maxTime+1+i, maxNum-i)
+	}
+	m = revived(t, []string{"\x00", chartText(c), nums(full...)})
+	step(t, m, about(8, 1, from(0, 5), 3), telling(charted(3, 0, 3, 5, 1, span)), true)
+	wantClients(t, m, full...)
+}
+
+// P15.6: what is no list of clients that rise, each with its number.
 func TestReviveRefusesClients(t *testing.T) {
 	c := chartText(charted(3, 0, 1, span))
 	var full []int
@@ -179,9 +213,11 @@ func TestReviveRefusesClients(t *testing.T) {
 		"client 0 ahead of one": {0, 5, 1, 5},
 		"number 0":              {1, 0},
 		"number 0 behind one":   {1, 5, 2, 0},
-		"client 2^40 + 1":       {maxTime + 1, 5},
-		"number 2^40 + 1":       {5, maxTime + 1},
-		"client 2^62":           {maxNum, 5},
+		"client 2^62 falls":     {maxNum, 5, maxNum - 1, 5},
+		"client 2^62, number 0": {maxNum, 0},
+		"client 2^62 alone":     {maxNum},
+		"client 2^62 + 1":       {maxNum + 1, 5},
+		"number 2^62 + 1":       {5, maxNum + 1},
 		"a client alone":        {1},
 		"a client more":         {1, 5, 2},
 		"65":                    append([]int{9, 1}, full...),
